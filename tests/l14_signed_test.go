@@ -592,8 +592,8 @@ func TestFirstHeadsThatAreNotValid(t *testing.T) {
 	checkFirst(t, impl.Signed{Head: impl.Head{Kind: 1, Zone: zoneByRule(impl.Keys{}, 0)}}, false)
 }
 
-// Of all pairs of small sets: nobody begins the zone of others, with the number
-// that these began it with, whoever signs.
+// Of all pairs of these small sets: nobody begins the zone of others, with the
+// number that these began it with, whoever signs.
 func TestZonesBegunByOtherKeys(t *testing.T) {
 	sets := []impl.Keys{}
 	visitKeys(5, func(k impl.Keys) { sets = append(sets, k) })
@@ -664,6 +664,33 @@ func TestZonesThatHashDoesNotTellApart(t *testing.T) {
 		checkFirst(t, impl.SignHead(k.List, k, h), countIn(other.List, k.List) >= other.Need)
 		h.Prev = 7
 		checkFirst(t, byEverybody(h), false)
+	}
+}
+
+// Some sets of different sizes begin the same zone even with the same number:
+// by the definition the heads of both are first.
+func TestZonesThatHashGivesTwoSets(t *testing.T) {
+	for _, c := range []struct {
+		salt int
+		a, b impl.Keys
+		zone int
+	}{
+		{0, setOf(1, 14, 16, 72), setOf(1, 59, 60, 92, 95), 579327718}, {1, setOf(3, 1, 97, 98), setOf(1, 19, 23, 26, 99), 168442805},
+		{7, setOf(2, 9, 67, 99), setOf(1, 23, 43, 53, 66), 188471978}, {7, setOf(2, 7, 57, 93), setOf(1, 23, 41, 43, 60), 1621230928},
+		{modulus - 2, setOf(1, 61, 62), setOf(2, 14, 94, 95, 99), 1817221399},
+	} {
+		for _, k := range []impl.Keys{c.a, c.b} {
+			if got := impl.ZoneOf(k, c.salt); got != c.zone || zoneByRule(k, c.salt) != c.zone {
+				t.Errorf("ZoneOf(%v, %d) is %d, want %d", k, c.salt, got, c.zone)
+			}
+			h, _ := impl.FirstHead(k, c.salt, nil, 10, 50)
+			checkFirst(t, impl.SignHead(k.List, k, h), true)
+		}
+		a, _ := impl.FirstHead(c.a, c.salt, nil, 10, 50)
+		b, _ := impl.FirstHead(c.b, c.salt, nil, 10, 50)
+		checkFirst(t, impl.SignHead(c.b.List, c.b, a), false)
+		checkFirst(t, impl.SignHead(c.a.List, c.a, b), false)
+		checkEqualSigned(t, impl.Signed{Head: a}, impl.Signed{Head: b}, false)
 	}
 }
 
